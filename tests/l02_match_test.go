@@ -313,8 +313,9 @@ func TestAnyWordCovers(t *testing.T) {
 		{"+/+", "+", false},
 		{"+", "a/#", false},
 		{"+", "+/#", false},
-		// By parts, although both match all topics.
+		// By parts, although both match all topics, as none is of no parts.
 		{"+/#", "#", false},
+		// A topic of one part is matched by the second one alone.
 		{"+/+/#", "+/#", false},
 		// As many as there may be: a # in place of the sixth part still is for none, too.
 		{"+/+/+/+/+/+", "a/b/c/d/e/#", false},
