@@ -90,10 +90,13 @@ func offeredForm(b impl.Box, m impl.Msg) (impl.Box, int64) {
 
 type boxAnswer struct {
 	box  impl.Box
+	msg  impl.Msg
 	code int64
 }
 
-func (a boxAnswer) same(b boxAnswer) bool { return a.code == b.code && sameBox(a.box, b.box) }
+func (a boxAnswer) same(b boxAnswer) bool {
+	return a.code == b.code && a.msg == b.msg && sameBox(a.box, b.box)
+}
 
 // checkBoxCall makes a call twice at a Box with spare room behind its Queue, writes all over the first answer in between, spare room too, and then makes it at one without: the argument stays, and so do the other answers.
 func checkBoxCall(t *testing.T, b impl.Box, call func(b impl.Box) boxAnswer) boxAnswer {
@@ -140,7 +143,7 @@ func offeredTo(t *testing.T, b impl.Box, m impl.Msg) (impl.Box, int64) {
 	t.Helper()
 	a := checkBoxCall(t, b, func(b impl.Box) boxAnswer {
 		next, code := impl.OfferedTo(b, m)
-		return boxAnswer{next, code}
+		return boxAnswer{box: next, code: code}
 	})
 	return a.box, a.code
 }
@@ -798,24 +801,34 @@ func TestManyBoxes(t *testing.T) {
 	}
 }
 
+func anyNumber(r *rand.Rand) int64 {
+	if r.Intn(2) == 0 {
+		return r.Int63n(6)
+	}
+	return int64(r.Uint64()) >> r.Intn(64)
+}
+
+func anyMsg(r *rand.Rand) impl.Msg {
+	return msg(anyNumber(r), anyNumber(r), anyText(r), anyNumber(r))
+}
+
+func anyBox(r *rand.Rand) impl.Box {
+	b := impl.Box{Cap: anyNumber(r), Policy: anyNumber(r), Shut: r.Intn(2) == 0}
+	for range r.Intn(4) {
+		b.Queue = append(b.Queue, anyMsg(r))
+	}
+	return withCounts(b, anyNumber(r), anyNumber(r), anyNumber(r), anyNumber(r))
+}
+
 func TestBoxAnyValues(t *testing.T) {
 	r := rand.New(rand.NewSource(19))
-	anyNumber := func() int64 {
-		if r.Intn(2) == 0 {
-			return r.Int63n(6)
-		}
-		return int64(r.Uint64()) >> r.Intn(64)
-	}
 	for range 20000 {
-		b := impl.Box{Cap: anyNumber(), Policy: anyNumber(), Offered: anyNumber(), Received: anyNumber(), Dropped: anyNumber(), Merged: anyNumber(), Shut: r.Intn(2) == 0}
-		for range r.Intn(4) {
-			b.Queue = append(b.Queue, msg(anyNumber(), anyNumber(), anyText(r), anyNumber()))
-		}
+		b := anyBox(r)
 		checkBox(t, boxForm(b), b)
-		m := msg(anyNumber(), anyNumber(), anyText(r), anyNumber())
+		m := anyMsg(r)
 		next, code := offeredForm(b, m)
 		checkOffered(t, b, m, next, code)
-		most, policy := anyNumber(), anyNumber()
+		most, policy := anyNumber(r), anyNumber(r)
 		checkNewBox(t, most, policy, boxForm(box(most, policy)))
 	}
 	long := strings.Repeat("a/", 1<<20) + "a"
